@@ -11,11 +11,13 @@ import (
 
 // player does steps on a wal, and by the document's words.
 type player struct {
-	t testing.TB
-	d *disk.Disk
-	w *Wal
-	m *byWords
-	n int // how many sectors were staged: no two have the same bytes
+	t       testing.TB
+	d       *disk.Disk
+	w       *Wal
+	m       *byWords
+	n       int // how many sectors were staged: no two have the same bytes
+	ahead   int // how far the number of what is like a record is ahead of the next record's
+	failing int // at which call of the disk a Commit fails
 }
 
 func newPlayer(t testing.TB, p place) *player {
@@ -33,10 +35,40 @@ func (p *player) stage(i int) {
 	p.m.stage(p.t, p.w, at, text(p.n, i))
 }
 
+// stageLike stages, at one of the first sectors that transactions may have, what is like a record that nobody commits.
+func (p *player) stageLike(i, ahead int) {
+	frees := p.m.frees()
+	if len(frees) == 0 {
+		return
+	}
+	next := p.m.head.Seq + len(p.m.records)
+	p.m.stage(p.t, p.w, frees[i%len(frees)], likeRecord(p.t, next+ahead, frees[max(0, len(frees)-1-ahead&1):]...))
+}
+
 // step does the step of a letter; at the k-th call of the disk from now on the disk fails, or goes down.
 func (p *player) step(letter byte, k int, down bool) {
 	fails := arm(p.d, k, down)
 	switch letter {
+	case '0', '1', '2', '4', '5':
+		p.stage(int(letter - '0'))
+	case 'x':
+		p.stageLike(1, p.ahead)
+	case 'A':
+		for i := range 16 {
+			p.stage(i)
+		}
+	case 'F':
+		if k == 0 {
+			fails = arm(p.d, p.failing, false)
+		}
+		p.m.commit(p.t, p.d, p.w, fails)
+		p.m.abort(p.w)
+	case 'o':
+		if k > 0 {
+			p.m.openDown(p.t, p.d, k)
+		} else {
+			p.w, p.m = p.m.openedAs(p.t, p.d, p.m.made[len(p.m.made)-1:])
+		}
 	case 'b':
 		p.m.begin(p.t, p.w)
 	case 's':
@@ -107,21 +139,28 @@ func eachCall(t *testing.T, tell func(r *rand.Rand, again func() *player)) {
 	t.Helper()
 	r := rand.New(rand.NewSource(14))
 	for _, script := range scripts {
-		for i := range len(script) {
-			for k := 0; ; k++ {
-				again := func() *player {
-					p := newPlayer(t, usual)
-					p.play(script[:i])
-					p.step(script[i], k, true)
-					return p
-				}
-				if k > 0 && !again().d.Down() {
-					break
-				}
-				tell(r, again)
-				if t.Failed() {
-					t.Fatalf("script %s, step %d, call %d", script, i, k)
-				}
+		eachCallOf(t, script, player{}, func(again func() *player) { tell(r, again) })
+	}
+}
+
+// eachCallOf lets the machine go down at each call of the disk of each step of a script.
+func eachCallOf(t *testing.T, script string, as player, tell func(again func() *player)) {
+	t.Helper()
+	for i := range len(script) {
+		for k := 0; ; k++ {
+			again := func() *player {
+				p := newPlayer(t, usual)
+				p.ahead, p.failing = as.ahead, as.failing
+				p.play(script[:i])
+				p.step(script[i], k, true)
+				return p
+			}
+			if k > 0 && !again().d.Down() {
+				break
+			}
+			tell(again)
+			if t.Failed() {
+				t.Fatalf("script %s, step %d, call %d, ahead %d, failing %d", script, i, k, as.ahead, as.failing)
 			}
 		}
 	}
@@ -216,14 +255,45 @@ func played(t testing.TB, b []byte) {
 	}
 }
 
+// stageAny stages what numbers say: also what is like one of the records to come, in this log, or in one that is opened behind it.
+func (p *player) stageAny(i, what int) {
+	if what < 128 {
+		p.stage(i)
+	} else {
+		p.stageLike(i, what%4+what/4%3*p.m.many)
+	}
+}
+
+// openAny opens a log, where perhaps a call of the disk fails, and then once more: at once, or behind a crash, of which survives what choices say.
+func (p *player) openAny(k int, choices []int) {
+	if p.d.Down() {
+		return
+	}
+	p.m.openFails(p.t, p.d, k)
+	if len(choices) == 0 {
+		p.step('o', 0, false)
+	} else {
+		p.w, p.m = p.m.crash(p.t, p.d, choices)
+	}
+}
+
+// anyOf is so many numbers.
+func anyOf(next func() int, many int) []int {
+	l := make([]int, many)
+	for i := range l {
+		l[i] = next()
+	}
+	return l
+}
+
 // stepOf does the step that numbers say.
 func (p *player) stepOf(next func() int) {
 	switch x := next() % 24; {
 	case x < 6:
 		if !p.m.active {
 			p.m.begin(p.t, p.w)
-			for range 1 + next()%17 {
-				p.stage(next())
+			for range 1 + next()%(1+next()%17) {
+				p.stageAny(next(), next())
 			}
 		}
 		p.step('c', 0, false)
@@ -235,13 +305,12 @@ func (p *player) stepOf(next func() int) {
 		p.m.stage(p.t, p.w, at, text(p.n, at))
 	case x == 13:
 		p.m.stage(p.t, p.w, next(), "short")
-	case x < 20:
-		p.step("bskafc"[x-14], 0, false)
+	case x < 19:
+		p.step("bskaf"[x-14], 0, false)
+	case x == 19:
+		p.openAny(next()%40, anyOf(next, max(0, next()%80-40)))
 	default:
-		choices := make([]int, next()%40)
-		for i := range choices {
-			choices[i] = next()
-		}
+		choices := anyOf(next, next()%40)
 		calls := make([]int, next()%3)
 		for i := range calls {
 			calls[i] = 1 + next()%30
@@ -252,9 +321,9 @@ func (p *player) stepOf(next func() int) {
 
 // P1, 14.1 to 14.4: whatever is done, in any order, a wal is what the document's words say.
 func TestAnything(t *testing.T) {
-	for seed := range 1500 {
+	for seed := range 1000 {
 		r := rand.New(rand.NewSource(int64(seed)))
-		b := make([]byte, 100+r.Intn(300))
+		b := make([]byte, 200+r.Intn(400))
 		for i := range b {
 			b[i] = byte(r.Intn(256))
 		}

@@ -87,7 +87,7 @@ func TestFormatFails(t *testing.T) {
 			fails := arm(d, k, down)
 			e := checkCalls(t, "Format", d, fails, func() api.Errno { return Format(d, 10, 24) })
 			if e == api.OK {
-				if k < 27 {
+				if k < 28 {
 					t.Errorf("Format has %d calls", k-1)
 				}
 				break
@@ -101,8 +101,8 @@ func TestFormatFails(t *testing.T) {
 
 // 14.1: wherever the machine goes down in a Format, the head of no records is there only if the records are gone.
 func TestFormatGoesDown(t *testing.T) {
-	for k := 1; k <= 27; k++ {
-		for lost := -1; lost < 27; lost++ {
+	for k := 1; k <= 28; k++ {
+		for lost := -1; lost < 28; lost++ {
 			d := filled(t, 40)
 			checkErr(t, "Format", Format(d, 10, 24), api.OK)
 			for seq, at := 1, 0; seq < 4; seq++ {
@@ -119,8 +119,8 @@ func TestFormatGoesDown(t *testing.T) {
 			}
 			d.Restart(choices)
 			s := sectorsOn(t, d)
-			if s[10] == noughts(1) && s[11] == headOf(t, 1, 1, 0) && strings.Join(s[12:34], "") != noughts(22) {
-				t.Errorf("down at %d, %d lost: a head ahead of old records", k, lost)
+			if s[11] == headOf(t, 1, 1, 0) && (s[10] != noughts(1) || strings.Join(s[12:34], "") != noughts(22)) {
+				t.Errorf("down at %d, %d lost: a head ahead of old records, or beside an old head", k, lost)
 			}
 		}
 	}
@@ -444,18 +444,22 @@ func TestOpenCorruptAhead(t *testing.T) {
 	}
 }
 
-// The example of the chapter.
+// The example of the chapter: both are as before, or both are new, also if all survives, or nothing does.
 func TestExample(t *testing.T) {
-	for _, survives := range [][]int{nil, {1}, {0, 1, 1}, {1, 0, 1}, {1, 1, 0}, {1, 1}, {1, 1, 1}} {
+	for _, survives := range [][]int{nil, {1}, {0, 1, 1}, {1, 0, 1}, {1, 1, 0}, {1, 1}, {1, 1, 1}, {0}, {0, 1}, {0, 0, 1}} {
 		d, w, m := fresh(t, usual)
 		m.begin(t, w)
 		m.stage(t, w, 5, text(1, 5))
 		m.stage(t, w, 7, text(1, 7))
 		m.commit(t, d, w, 0)
+		waits := d.Waits()
 		_, m = m.crash(t, d, survives)
-		all := len(survives) == 3 && !slices.Contains(survives, 0)
-		if (m.seen[5] == text(1, 5)) != all || (m.seen[7] == text(1, 7)) != all {
-			t.Errorf("%v survive: %q and %q", survives, m.seen[5], m.seen[7])
+		all := len(survives) >= waits && !slices.Contains(survives[:waits], 0)
+		none := !slices.Contains(survives[:min(waits, len(survives))], 1)
+		before := m.seen[5] == filler(5) && m.seen[7] == filler(7)
+		after := m.seen[5] == text(1, 5) && m.seen[7] == text(1, 7)
+		if !before && !after || all && !after || none && !before {
+			t.Errorf("%v of %d survive: %q and %q", survives, waits, m.seen[5], m.seen[7])
 		}
 	}
 }
@@ -663,7 +667,7 @@ func TestCommitFull(t *testing.T) {
 // 14.2: an error of the disk is told, the transaction is as it was, and may be committed again, changed or not.
 func TestCommitFails(t *testing.T) {
 	for size := 1; size <= 16; size += 3 {
-		for k := 1; k <= size+1; k++ {
+		for k := 1; k <= size+3; k++ {
 			d, w, m := fresh(t, usual)
 			for n := range 2 {
 				m.begin(t, w)
@@ -674,7 +678,7 @@ func TestCommitFails(t *testing.T) {
 					m.checkpoint(t, d, w, 0)
 				}
 				for range 3 {
-					checkErr(t, "Commit", m.commit(t, d, w, arm(d, k, false)), api.ErrIO)
+					checkErr(t, "Commit", m.commit(t, d, w, arm(d, min(k, m.calls()), false)), api.ErrIO)
 					m.check(t, d, w)
 				}
 				m.stage(t, w, 0, text(n, 50))
@@ -688,7 +692,7 @@ func TestCommitFails(t *testing.T) {
 // 14.2: what could not be committed, and is aborted, has not been, whatever there is in its place; also if the machine goes down.
 func TestCommitFailsAbort(t *testing.T) {
 	for _, then := range []int{0, 1, 2} {
-		for k := 1; k <= 5; k++ {
+		for k := 1; k <= 7; k++ {
 			d, w, m := fresh(t, usual)
 			m.begin(t, w)
 			for i := range 4 {

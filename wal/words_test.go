@@ -1,6 +1,7 @@
 package wal
 
 import (
+	"encoding/binary"
 	"maps"
 	"math"
 	"slices"
@@ -8,6 +9,7 @@ import (
 	"testing"
 
 	"solder/api"
+	"solder/cyclic"
 	"solder/disk"
 	"solder/loghead"
 	"solder/logrec"
@@ -36,10 +38,36 @@ var logs = []place{usual, {24, 0, 24}, {25, 0, 24}, {25, 1, 24}, {60, 0, 31}, {6
 // filler is what a sector has ahead of all tests: bytes of its own.
 func filler(at int) string { return string([]byte{byte(at), byte(at >> 8)}) + strings.Repeat("f", 62) }
 
-// text is bytes for a sector that the n-th transaction has: no other one has these.
+// text is bytes for a sector that the n-th transaction has: no other one has these. All texts have the sum of a sector of 0, so that with any of them in the place of another one a record's sum is right.
 func text(n, at int) string {
 	s := "t" + string([]byte{byte(n), byte(n >> 8), byte(n >> 16), byte(at), byte(at >> 8)})
-	return s + strings.Repeat("t", 64-len(s))
+	return summed(s+strings.Repeat("t", 60-len(s)), cyclic.Of(noughts(1)))
+}
+
+// summed is bytes, and four more behind them, that all together have a sum.
+func summed(s string, sum int) string {
+	// The 32 steps of the last four bytes (3.1) are gone back: a step's place at the top is 1 only where its lowest bit was.
+	x := ^uint32(sum)
+	for range 32 {
+		if x>>31 == 0 {
+			x <<= 1
+		} else {
+			x = (x^0xEDB88320)<<1 | 1
+		}
+	}
+	return string(binary.LittleEndian.AppendUint32([]byte(s), x^^uint32(cyclic.Of(s))))
+}
+
+// likeRecord is a sector of data that is, byte by byte, the first one of a record of a number, which nobody commits; with any texts behind it that record's sum is right.
+func likeRecord(t testing.TB, seq int, ats ...int) string {
+	t.Helper()
+	var l []api.Sector
+	for _, at := range ats {
+		l = append(l, api.Sector{At: at, Data: text(0, at)})
+	}
+	s, e := logrec.Put(seq, l)
+	checkErr(t, "Put of a record", e, api.OK)
+	return s[:64]
 }
 
 // noughts is so many sectors of 0.
@@ -343,6 +371,9 @@ func (m *byWords) stage(t testing.TB, w *Wal, at int, data string) {
 	}
 }
 
+// calls is how many calls of the disk a Commit that is OK has: it writes its record's sectors, and one behind it, if there is one, and makes sure once.
+func (m *byWords) calls() int { return min(len(m.staged)+2, m.room()) + 1 }
+
 func (m *byWords) commit(t testing.TB, d *disk.Disk, w *Wal, fails int) api.Errno {
 	t.Helper()
 	size := len(m.staged) + 1
@@ -365,8 +396,8 @@ func (m *byWords) commit(t testing.TB, d *disk.Disk, w *Wal, fails int) api.Errn
 		m.underWay = maps.Clone(m.staged)
 	}
 	if e == api.OK {
-		if d.Ops() != max(ops+size, fails) {
-			t.Errorf("Commit of %d sectors: %d calls", size-1, d.Ops()-ops)
+		if calls := m.calls(); d.Ops() != max(ops+calls, fails) {
+			t.Errorf("Commit of %d sectors: %d calls, want %d", size-1, d.Ops()-ops, calls)
 		}
 		for at, data := range m.staged {
 			m.seen[at] = data
@@ -441,6 +472,18 @@ func (m *byWords) openDown(t testing.TB, d *disk.Disk, call int) {
 	if d.Down() && (w != nil || e != api.ErrDown) || !d.Down() && (w == nil || e != api.OK) {
 		t.Errorf("Open, down at %d: %v, error %d", call, w, e)
 	}
+}
+
+// openFails opens a log, where a call of the disk fails; none, if k is 0.
+func (m *byWords) openFails(t testing.TB, d *disk.Disk, k int) {
+	t.Helper()
+	checkCalls(t, "Open", d, arm(d, k, false), func() api.Errno {
+		w, e := Open(d, m.from, m.many)
+		if (w != nil) != (e == api.OK) {
+			t.Errorf("Open: %v, error %d", w, e)
+		}
+		return e
+	})
 }
 
 // possible is what may be seen behind a crash: what the first transactions made, with none less than those that are sure, and none more than those that were committed, and the one whose Commit was under way.
